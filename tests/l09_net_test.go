@@ -1535,8 +1535,8 @@ func checkOwnGot(t *testing.T, n impl.Net, text []impl.Say) {
 	checkOwnSpans(t, spans, spansOf(n))
 }
 
-// Lists that a net shares with itself are apart in what is answered.
-func TestNetListsThatAreShared(t *testing.T) {
+// sharingNet shares lists with itself. It tells what was brought to it, too.
+func sharingNet() (impl.Net, []impl.Say) {
 	brought := longSays("shared", 1)
 	list := []int{0, 1}
 	slots := []impl.Slot{{Root: brought[0].Root, Echoes: list, Readies: list[:1]}}
@@ -1544,6 +1544,12 @@ func TestNetListsThatAreShared(t *testing.T) {
 	for id := range 4 {
 		n.Nodes = append(n.Nodes, impl.Node{Id: id, F: 1, Slots: slots})
 	}
+	return n, brought
+}
+
+// Lists that a net shares with itself are apart in what is answered.
+func TestNetListsThatAreShared(t *testing.T) {
+	n, brought := sharingNet()
 	for _, wrong := range []bool{false, true} {
 		if wrong {
 			n.Nodes[3].Id = 2

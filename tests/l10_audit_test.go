@@ -426,20 +426,25 @@ func TestAuditTellsJustTheLiars(t *testing.T) {
 	}
 }
 
+// schemed is a net with drawn liars that has heard all: what they made of texts of their own, and one text that was brought by no liar.
+func (d *drawer) schemed(t *testing.T, f int, texts [][]impl.Say) impl.Net {
+	t.Helper()
+	liars := d.order(3*f + 1)[:d.below(f+1)]
+	slices.Sort(liars)
+	n := startedNet(t, f, liars)
+	n.Way = d.scheme(n, texts)
+	return d.drawnEnd(t, does(t, n, opBring("brought by no liar")), texts)
+}
+
 // Whatever the liars say on the way to it, and in whatever order it is heard.
 func TestAuditWhateverLiarsSay(t *testing.T) {
 	d := drawer(154)
 	for round := range 60 {
 		f := 1 + round%3
-		liars := d.order(3*f + 1)[:d.below(f+1)]
-		slices.Sort(liars)
-		texts := [][]impl.Say{d.liedCutting(f), d.liedCutting(f)}
-		n := startedNet(t, f, liars)
-		n.Way = d.scheme(n, texts)
-		n = d.drawnEnd(t, does(t, n, opBring("brought by no liar")), texts)
-		checkAudit(t, n, "brought by no liar", d.text(d.below(101)), nil, liars)
+		n := d.schemed(t, f, [][]impl.Say{d.liedCutting(f), d.liedCutting(f)})
+		checkAudit(t, n, "brought by no liar", d.text(d.below(101)), nil, n.Liars)
 		lost := d.below(3*f + 1)
-		checkAudit(t, without(n, lost), "brought by no liar", "x", nil, withAll(liars, lost))
+		checkAudit(t, without(n, lost), "brought by no liar", "x", nil, withAll(n.Liars, lost))
 	}
 }
 
